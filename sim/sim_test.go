@@ -497,9 +497,9 @@ func TestFreshMemory(t *testing.T) {
 
 // I1: its ends can be left ahead of the last one.
 func TestLeftEarly(t *testing.T) {
-	r := runner{[]api.Step{fork(1, 2), take("a", 0), done}, "aaa"}
+	w, _ := WaysOf([]api.Step{fork(1, 2), take("a", 0), done})
 	var got []int
-	for at := range r.ends(1) {
+	for at := range w.ends("aaa", 1) {
 		got = append(got, at)
 		if at == 2 {
 			break
@@ -507,5 +507,39 @@ func TestLeftEarly(t *testing.T) {
 	}
 	if !slices.Equal(got, []int{1, 2}) {
 		t.Errorf("got %v", got)
+	}
+}
+
+// I1: all ways at once, place by place: sets of steps that are the same are so by ==, whichever way they were come to.
+func TestWays(t *testing.T) {
+	p := []api.Step{fork(1, 2), take("a", 0), last(3), fork(4, 5), done, first(1)}
+	w, err := WaysOf(p)
+	if err != nil {
+		t.Fatal(err)
+	}
+	p[1] = done // it is not kept
+	begun, again := w.Begin(Place{First: true}), w.Begin(Place{})
+	if begun != again || begun != w.Next(begun, 'a', Place{}) || !slices.Equal(slices.Collect(begun.rising), []int{0, 1, 2}) {
+		t.Errorf("got %v, then %v", begun, again)
+	}
+	if w.IsDone(begun) || begun.IsEmpty() {
+		t.Errorf("%v is at its end, or empty", begun)
+	}
+	ended := w.Next(begun, 'a', Place{Last: true})
+	if !w.IsDone(ended) || !slices.Equal(slices.Collect(ended.rising), []int{0, 1, 2, 3, 4, 5}) {
+		t.Errorf("got %v", ended)
+	}
+	if none := w.Next(begun, 'b', Place{Last: true}); !none.IsEmpty() || w.IsDone(none) {
+		t.Errorf("got %v", none)
+	}
+	for text, want := range map[string][]Place{"": {{true, true}}, "ab": {{true, false}, {false, false}, {false, true}}} {
+		for at, place := range want {
+			if got := PlaceOf(text, at); got != place {
+				t.Errorf("PlaceOf(%q, %d): got %v", text, at, got)
+			}
+		}
+	}
+	if w, err := WaysOf(nil); len(w.steps) != 0 || plain.Told(err) != api.ErrNone {
+		t.Errorf("got %v %v", w, err)
 	}
 }
