@@ -543,3 +543,62 @@ func TestWays(t *testing.T) {
 		t.Errorf("got %v %v", w, err)
 	}
 }
+
+// cameTo are all steps that a program comes to behind the first place, with any bytes of its classes, where the text goes
+// on; told set by set, until none is new.
+func (w Ways) cameTo(bytes string) Steps {
+	var found Steps
+	seen := map[Steps]bool{}
+	for work := []Steps{w.Begin(Place{First: true})}; len(work) > 0; work = work[1:] {
+		for i := range len(bytes) {
+			next := w.Next(work[0], bytes[i], Place{})
+			if seen[next] {
+				continue
+			}
+			seen[next] = true
+			work = append(work, next)
+			for number := range next.rising {
+				found = found.with(number)
+			}
+		}
+	}
+	return found
+}
+
+// I1: the steps that a program can come to later are those of all texts that go on.
+func TestLater(t *testing.T) {
+	kinds := append(stepsOf(5), take("", 0), take("", 4))
+	number := uint32(7)
+	for range 20000 {
+		var p []api.Step
+		for range 5 {
+			number = number*1664525 + 1013904223
+			p = append(p, kinds[int(number>>8)%len(kinds)])
+		}
+		w, err := WaysOf(p)
+		if err != nil {
+			t.Fatal(err)
+		}
+		if got, want := w.Later(w.Begin(Place{First: true})), w.cameTo("abcd"); got != want {
+			t.Fatalf("%v: got %v, want %v", p, slices.Collect(got.rising), slices.Collect(want.rising))
+		}
+	}
+	takes := ring(func(next int) api.Step { return take("\xff", next) })
+	w, _ := WaysOf(takes)
+	if got := slices.Collect(w.Later(w.Begin(Place{})).rising); len(got) != api.MaxSteps {
+		t.Errorf("got %v", got)
+	}
+}
+
+// I1: what is known at a place where the text goes on tells what is known if it ends there.
+func TestReached(t *testing.T) {
+	for _, p := range programs(2) {
+		w, _ := WaysOf(p)
+		for _, isFirst := range []bool{false, true} {
+			ended := w.Begin(Place{First: isFirst, Last: true})
+			if got := w.Reached(w.Begin(Place{First: isFirst}), Place{First: isFirst, Last: true}); got != ended {
+				t.Fatalf("%v: got %v, want %v", p, got, ended)
+			}
+		}
+	}
+}

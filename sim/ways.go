@@ -32,7 +32,7 @@ func WaysOf(p []api.Step) (Ways, error) {
 
 // Begin are the steps that the program comes to at the place at which it is begun.
 func (w Ways) Begin(at Place) Steps {
-	return w.reached(Steps{}.with(0), at)
+	return w.Reached(Steps{}.with(0), at)
 }
 
 // Next are the steps that the program comes to at the next place, from those at one place on, with the byte between.
@@ -44,7 +44,7 @@ func (w Ways) Next(now Steps, taken byte, at Place) Steps {
 			begun = begun.with(step.X)
 		}
 	}
-	return w.reached(begun, at)
+	return w.Reached(begun, at)
 }
 
 // IsDone tells whether the program is at its end at one of some steps.
@@ -57,8 +57,8 @@ func (w Ways) IsDone(now Steps) bool {
 	return false
 }
 
-// reached are the steps that the program comes to at a place, from some of them on.
-func (w Ways) reached(begun Steps, at Place) Steps {
+// Reached are the steps that the program comes to at a place, from some of them on, these too.
+func (w Ways) Reached(begun Steps, at Place) Steps {
 	var found Steps
 	var visit func(number int)
 	visit = func(number int) {
@@ -79,4 +79,34 @@ func (w Ways) reached(begun Steps, at Place) Steps {
 		visit(number)
 	}
 	return found
+}
+
+// Later are all steps that the program can come to at any place behind one, from those there on, with whichever bytes
+// between, where the text goes on behind that place as well.
+func (w Ways) Later(now Steps) Steps {
+	var found Steps
+	var visit func(number int)
+	visit = func(number int) {
+		if found.has(number) {
+			return
+		}
+		found = found.with(number)
+		if step := w.steps[number]; step.Op == api.Fork {
+			visit(step.X)
+			visit(step.Y)
+		} else if canTake(step) {
+			visit(step.X)
+		}
+	}
+	for number := range now.rising {
+		if step := w.steps[number]; canTake(step) {
+			visit(step.X)
+		}
+	}
+	return found
+}
+
+// canTake tells whether there is a byte that a step takes.
+func canTake(step api.Step) bool {
+	return step.Op == api.Take && class.Many(step.Class) > 0
 }
